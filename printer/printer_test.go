@@ -85,19 +85,39 @@ func TestP701Written(t *testing.T) {
 	}
 }
 
-func TestP701Errors(t *testing.T) {
-	for _, x := range []struct {
-		c api.Circuit
-		e api.Errno
-	}{
+// fault is what is no circuit, and by which error.
+type fault struct {
+	c api.Circuit
+	e api.Errno
+}
+
+// named tells a circuit of one output that has those names.
+func named(names ...api.Symbol) api.Circuit {
+	return api.Circuit{Outputs: []int{0}, Names: names}
+}
+
+// faults tells what is no circuit: by each error, and by Symbols alone.
+func faults() []fault {
+	return []fault{
 		{api.Circuit{Max: api.MaxVar + 1}, api.ErrLong},
+		{api.Circuit{Max: -1, Outputs: make([]int, api.MaxPorts+1)}, api.ErrLong},
+		{named(api.Symbol{Kind: 'o', Name: "a"}, api.Symbol{Kind: 'o', Name: "a"}), api.ErrLong},
 		{api.Circuit{Max: -1}, api.ErrArg},
 		{api.Circuit{Outputs: []int{2}}, api.ErrArg},
-		{api.Circuit{Outputs: []int{0}, Names: []api.Symbol{{Kind: 'o', Name: "a\nb"}}}, api.ErrArg},
+		{named(api.Symbol{Kind: 'o', Name: "a\nb"}), api.ErrArg},
+		{named(api.Symbol{Kind: 'o'}), api.ErrArg},
+		{named(api.Symbol{Kind: 'o', Index: 1, Name: "a"}), api.ErrArg},
+		{named(api.Symbol{Kind: 'x', Name: "a"}), api.ErrArg},
+		{named(api.Symbol{Kind: 'o', Name: strings.Repeat("n", api.MaxName+1)}), api.ErrArg},
 		{api.Circuit{Max: 1, Inputs: []int{2, 2}}, api.ErrTwice},
+		{api.Circuit{Outputs: []int{0, 1}, Names: []api.Symbol{{Kind: 'o', Name: "a"}, {Kind: 'o', Name: "b"}}}, api.ErrTwice},
 		{api.Circuit{Max: 1, Bads: []int{2}}, api.ErrNone},
 		{api.Circuit{Max: 1, Ands: []api.And{{Lit: 2, A: 3, B: 1}}}, api.ErrCycle},
-	} {
+	}
+}
+
+func TestP701Errors(t *testing.T) {
+	for _, x := range faults() {
 		checkWritten(t, "Ascii", Ascii, x.c, "", x.e)
 		checkWritten(t, "Binary", Binary, x.c, "", x.e)
 	}
