@@ -531,6 +531,37 @@ func TestP402NormalOfManyCircuits(t *testing.T) {
 	}
 }
 
+func TestOrderIsTheOneOfNormal(t *testing.T) {
+	l := lot(6)
+	for _, wild := range []bool{false, true} {
+		for range 2000 {
+			c := l.circuit(wild)
+			order, e := Order(c)
+			n, f := Normal(c)
+			if e != f || len(order) != len(n.Ands) {
+				t.Errorf("P402: Order of %v is %v, %d; Normal tells %d Ands, %d", c, order, e, len(n.Ands), f)
+				continue
+			}
+			// Taken in that order, they are in turn already, and become what they became.
+			inTurn := clone(c)
+			for i, place := range order {
+				inTurn.Ands[i] = c.Ands[place]
+			}
+			if again, _ := Order(inTurn); e == api.OK && !slices.IsSorted(again) {
+				t.Errorf("P402: Order of %v is %v, and not in turn", c, order)
+			}
+			if e == api.OK {
+				checkNormal(t, inTurn, n)
+			}
+		}
+	}
+	for _, c := range []api.Circuit{{Max: -1}, {Max: 1, Inputs: []int{2, 2}}, {Max: 1, Outputs: []int{2}}, {Max: 2, Ands: []api.And{{Lit: 4}, {Lit: 2, A: 2}}}} {
+		if order, e := Order(c); len(order) > 0 || e != Check(c) || e == api.OK {
+			t.Errorf("P402: Order of %v is %v, %d", c, order, e)
+		}
+	}
+}
+
 func TestP402Vars(t *testing.T) {
 	for _, x := range []struct {
 		c    api.Circuit
