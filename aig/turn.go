@@ -4,31 +4,14 @@ import (
 	"container/heap"
 
 	"retorter/api"
+	"retorter/pile"
 )
-
-// places is a heap of places of Ands: the first place lies on top.
-type places []int
-
-func (p places) Len() int { return len(p) }
-
-func (p places) Less(i, j int) bool { return p[i] < p[j] }
-
-func (p places) Swap(i, j int) { p[i], p[j] = p[j], p[i] }
-
-func (p *places) Push(x any) { *p = append(*p, x.(int)) }
-
-func (p *places) Pop() any {
-	end := len(*p) - 1
-	x := (*p)[end]
-	*p = (*p)[:end]
-	return x
-}
 
 // queue holds which Ands may be taken next, and which ones wait for others.
 type queue struct {
-	ready places
-	waits []int   // how many sides of each And are Ands that were not taken
-	users [][]int // the places of those that wait for each And: twice, if both sides do
+	ready *pile.Pile[int] // places: the first one lies on top
+	waits []int           // how many sides of each And are Ands that were not taken
+	users [][]int         // the places of those that wait for each And: twice, if both sides do
 }
 
 // inTurn tells the places of c's Ands as they are taken: again and again the first one whose sides are no Ands, or were taken. Those that hang on one that hangs on itself are left out.
@@ -43,7 +26,7 @@ func inTurn(c api.Circuit) []int {
 
 // newQueue tells the queue of which none was taken.
 func newQueue(c api.Circuit) *queue {
-	q := &queue{waits: make([]int, len(c.Ands)), users: make([][]int, len(c.Ands))}
+	q := &queue{ready: pile.Least(), waits: make([]int, len(c.Ands)), users: make([][]int, len(c.Ands))}
 	place := andPlaces(c)
 	for i, a := range c.Ands {
 		for _, side := range []int{a.A, a.B} {
@@ -53,7 +36,7 @@ func newQueue(c api.Circuit) *queue {
 			}
 		}
 		if q.waits[i] == 0 {
-			heap.Push(&q.ready, i)
+			heap.Push(q.ready, i)
 		}
 	}
 	return q
@@ -61,11 +44,11 @@ func newQueue(c api.Circuit) *queue {
 
 // take tells the first place that is ready, and lets those be ready that waited for it last.
 func (q *queue) take() int {
-	first := heap.Pop(&q.ready).(int)
+	first := heap.Pop(q.ready).(int)
 	for _, user := range q.users[first] {
 		q.waits[user]--
 		if q.waits[user] == 0 {
-			heap.Push(&q.ready, user)
+			heap.Push(q.ready, user)
 		}
 	}
 	return first
