@@ -6,6 +6,7 @@ import (
 
 	"retorter/aig"
 	"retorter/api"
+	"retorter/text"
 )
 
 // Places of the numbers in a header.
@@ -36,8 +37,8 @@ func (g Grammar) Read(b []byte) (api.Circuit, api.Errno) {
 	if len(b) > api.MaxBytes {
 		return api.Circuit{}, api.ErrLong
 	}
-	r := &Reader{text: b}
-	rest, ok := strings.CutPrefix(r.line(), g.Word+" ")
+	r := &Reader{Reader: text.Of(b)}
+	rest, ok := strings.CutPrefix(r.Line(), g.Word+" ")
 	if !ok {
 		return api.Circuit{}, api.ErrSyntax
 	}
@@ -46,7 +47,7 @@ func (g Grammar) Read(b []byte) (api.Circuit, api.Errno) {
 		return api.Circuit{}, e
 	}
 	c := g.circuit(r, h)
-	if r.failed {
+	if r.Failed() {
 		return api.Circuit{}, api.ErrSyntax
 	}
 	if e := told(aig.Check(c)); e != api.OK {

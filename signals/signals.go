@@ -18,16 +18,29 @@ type Signals[T any] struct {
 	Values []T
 }
 
-// Settle tells the signals of c in that state, with those inputs.
-func (g Logic[T]) Settle(c api.Circuit, state, inputs []T) (*Signals[T], api.Errno) {
+// Machine is a circuit that was checked, to be settled again and again. It stands on what it was made of, which is to stay as it is.
+type Machine[T any] struct {
+	Circuit api.Circuit
+	logic   Logic[T]
+	order   []int // the places of the Ands, each behind those that it needs
+}
+
+// Machine tells c as one.
+func (g Logic[T]) Machine(c api.Circuit) (*Machine[T], api.Errno) {
 	order, e := aig.Order(c)
 	if e != api.OK {
 		return nil, e
 	}
+	return &Machine[T]{Circuit: c, logic: g, order: order}, api.OK
+}
+
+// Settle tells the signals in that state, with those inputs.
+func (m *Machine[T]) Settle(state, inputs []T) (*Signals[T], api.Errno) {
+	c := m.Circuit
 	if len(state) != len(c.Latches) || len(inputs) != len(c.Inputs) {
 		return nil, api.ErrArg
 	}
-	s := &Signals[T]{Logic: g, Values: make([]T, c.Max+1)}
+	s := &Signals[T]{Logic: m.logic, Values: make([]T, c.Max+1)}
 	for i, l := range c.Inputs {
 		s.Values[l/2] = inputs[i]
 	}
@@ -35,10 +48,19 @@ func (g Logic[T]) Settle(c api.Circuit, state, inputs []T) (*Signals[T], api.Err
 		s.Values[l.Lit/2] = state[i]
 	}
 	settle := s.and
-	for _, place := range order {
+	for _, place := range m.order {
 		settle(c.Ands[place])
 	}
 	return s, api.OK
+}
+
+// Settle tells the signals of c in that state, with those inputs.
+func (g Logic[T]) Settle(c api.Circuit, state, inputs []T) (*Signals[T], api.Errno) {
+	m, e := g.Machine(c)
+	if e != api.OK {
+		return nil, e
+	}
+	return m.Settle(state, inputs)
 }
 
 // Literal tells what a literal is.
